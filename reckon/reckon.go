@@ -1,0 +1,19 @@
+// Package reckon: sums of pieces times factors, in three ways that come to
+// the same.
+package reckon
+
+import "wattle/api"
+
+// Sums answers for each row of factors the sum of the pieces, each times its
+// factor. There is at least one piece, all have the same length, and each row
+// has a factor for each.
+func Sums(way int, rows [][]byte, pieces [][]byte) [][]byte {
+	switch way {
+	case api.Planes:
+		return sumsByPlanes(rows, pieces)
+	case api.Plans:
+		return sumsByPlan(rows, pieces)
+	default:
+		return sumsByTables(rows, pieces)
+	}
+}
