@@ -2,6 +2,8 @@
 package parts
 
 import (
+	"slices"
+
 	"wattle/field"
 	"wattle/reckon"
 )
@@ -9,9 +11,7 @@ import (
 // Spread cuts a text in data pieces, and makes spare ones; the counts, the way
 // and the text's length are such as may be.
 func Spread(data, spare, way int, text string) []string {
-	cut := Cut(data, text)
-	made := reckon.Sums(way, Factors(data, spare), cut)
-	return asTexts(cut, made)
+	return whole(spare, way, Cut(data, text))
 }
 
 // Length is how many bytes each piece of a text of that size has.
@@ -43,13 +43,16 @@ func Factors(data, spare int) [][]byte {
 	return rows
 }
 
-func asTexts(cut, made [][]byte) []string {
-	texts := make([]string, 0, len(cut)+len(made))
-	for _, piece := range cut {
-		texts = append(texts, string(piece))
-	}
-	for _, piece := range made {
-		texts = append(texts, string(piece))
+// whole are the data pieces and the spare ones that they make.
+func whole(spare, way int, cut [][]byte) []string {
+	made := reckon.Sums(way, Factors(len(cut), spare), cut)
+	return asTexts(slices.Concat(cut, made))
+}
+
+func asTexts(pieces [][]byte) []string {
+	texts := make([]string, len(pieces))
+	for p, piece := range pieces {
+		texts[p] = string(piece)
 	}
 	return texts
 }

@@ -31,6 +31,17 @@ func longInv(a int) int {
 	return 0
 }
 
+// longFactors has at [i][j] the factor F(i, j).
+func longFactors(d, s int) [][]int {
+	rows := make([][]int, s)
+	for i := range rows {
+		for j := range d {
+			rows[i] = append(rows[i], longInv((d+i)^j))
+		}
+	}
+	return rows
+}
+
 // plainSpread reckons the pieces by the definition, place by place.
 func plainSpread(d, s int, text string) []string {
 	length := len(text) / d
@@ -43,6 +54,7 @@ func plainSpread(d, s int, text string) []string {
 		}
 		return 0
 	}
+	factors := longFactors(d, s)
 	var out []string
 	for p := range d + s {
 		piece := make([]byte, length)
@@ -52,7 +64,7 @@ func plainSpread(d, s int, text string) []string {
 				sum = at(p, k)
 			} else {
 				for j := range d {
-					sum ^= longMul(longInv(p^j), at(j, k))
+					sum ^= longMul(factors[p-d][j], at(j, k))
 				}
 			}
 			piece[k] = byte(sum)
@@ -143,21 +155,23 @@ func TestSpreadRefuses(t *testing.T) {
 	}
 }
 
+// overwrite writes into a list and into all the room behind it.
+func overwrite(list []string) {
+	_ = append(list, "more")
+	_ = append(list[:0], "less")
+	room := list[:cap(list)]
+	for i := range room {
+		room[i] = "spoilt"
+	}
+}
+
 func TestSpreadAnswersNewMemory(t *testing.T) {
 	for _, way := range allWays {
 		for _, text := range []string{"", "a", "some text"} {
 			want := plainSpread(3, 2, text)
 			got, _ := Spread(3, 2, way, text)
 			again, _ := Spread(3, 2, way, text)
-			for i := range got {
-				got[i] = "spoilt"
-			}
-			_ = append(got, "more")
-			_ = append(got[:0], "less")
-			whole := got[:cap(got)]
-			for i := range whole {
-				whole[i] = "room"
-			}
+			overwrite(got)
 			if !slices.Equal(again, want) {
 				t.Errorf("P2: way %d: writing into one answer changed another: %q, want %q", way, again, want)
 			}

@@ -42,12 +42,19 @@ func Spread(data int, spare int, way int, text string) ([]string, api.Errno) {
 
 // Gather works a text and all pieces out of those that are left (P5).
 func Gather(data int, spare int, way int, size int, pieces []string, lost []int) (string, []string, api.Errno) {
-	return "", nil, api.OK
+	if e := gatherFault(data, spare, way, size, pieces, lost); e != api.OK {
+		return "", nil, e
+	}
+	text, all := parts.Gather(data, spare, way, size, pieces, lost)
+	return text, all, api.OK
 }
 
 // Change writes over a part of the text, in the pieces (P6).
 func Change(data int, spare int, size int, pieces []string, at int, text string) ([]string, api.Errno) {
-	return nil, api.OK
+	if e := changeFault(data, spare, size, pieces, at, text); e != api.OK {
+		return nil, e
+	}
+	return parts.Change(data, spare, pieces, at, text), api.OK
 }
 
 // Plan is a plan of exclusive ors that makes the spare pieces (P7).
