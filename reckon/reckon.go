@@ -5,8 +5,8 @@ package reckon
 import "wattle/api"
 
 // Sums answers for each row of factors the sum of the pieces, each times its
-// factor. There is at least one piece, all have the same length, and each row
-// has a factor for each.
+// factor. There are from 1 to MaxData pieces, all of the same length, and at
+// most MaxSpare rows, each with a factor for each piece.
 func Sums(way int, rows [][]byte, pieces [][]byte) [][]byte {
 	switch way {
 	case api.Planes:

@@ -5,6 +5,7 @@ import (
 	"wattle/api"
 	"wattle/field"
 	"wattle/parts"
+	"wattle/plans"
 )
 
 // Mul multiplies two bytes of the field (P3).
@@ -58,7 +59,12 @@ func Change(data int, spare int, size int, pieces []string, at int, text string)
 }
 
 // Plan is a plan of exclusive ors that makes the spare pieces (P7).
-func Plan(data int, spare int) ([]api.Step, api.Errno) { return nil, api.OK }
+func Plan(data int, spare int) ([]api.Step, api.Errno) {
+	if !areCounts(data, spare) {
+		return nil, api.ErrCount
+	}
+	return plans.Steps(parts.Factors(data, spare), data), api.OK
+}
 
 // Pack writes a text as a pack (P8).
 func Pack(data int, spare int, way int, text string) (string, api.Errno) { return "", api.OK }
