@@ -4,6 +4,7 @@ package wattle
 import (
 	"wattle/api"
 	"wattle/field"
+	"wattle/packs"
 	"wattle/parts"
 	"wattle/plans"
 )
@@ -67,18 +68,50 @@ func Plan(data int, spare int) ([]api.Step, api.Errno) {
 }
 
 // Pack writes a text as a pack (P8).
-func Pack(data int, spare int, way int, text string) (string, api.Errno) { return "", api.OK }
+func Pack(data int, spare int, way int, text string) (string, api.Errno) {
+	pieces, e := Spread(data, spare, way, text)
+	if e != api.OK {
+		return "", e
+	}
+	head := api.Head{Data: data, Spare: spare, Size: len(text)}
+	return packs.Write(head, pieces), api.OK
+}
 
 // Open takes a pack apart (P9).
 func Open(pack string) (api.Head, []string, []int, api.Errno) {
-	return api.Head{}, nil, nil, api.OK
+	head, e := headOf(pack)
+	if e != api.OK {
+		return api.Head{}, nil, nil, e
+	}
+	// All of them may be bad: none is left out here.
+	bad := packs.Bad(head, pack, head.Data+head.Spare)
+	return head, packs.Pieces(head, pack), bad, api.OK
 }
 
 // Read tells a pack's text (P10).
-func Read(pack string, way int) (string, api.Errno) { return "", api.OK }
+func Read(pack string, way int) (string, api.Errno) {
+	m, e := mend(pack, way)
+	return m.text, e
+}
 
 // Heal makes a pack whole (P10).
-func Heal(pack string, way int) (string, []int, api.Errno) { return "", nil, api.OK }
+func Heal(pack string, way int) (string, []int, api.Errno) {
+	m, e := mend(pack, way)
+	if e != api.OK {
+		return "", nil, e
+	}
+	return packs.Write(m.head, m.pieces), m.bad, api.OK
+}
 
 // Edit writes over a part of a pack's text (P11).
-func Edit(pack string, way int, at int, text string) (string, api.Errno) { return "", api.OK }
+func Edit(pack string, way int, at int, text string) (string, api.Errno) {
+	m, e := mend(pack, way)
+	if e != api.OK {
+		return "", e
+	}
+	if !isWithin(m.head.Size, at, text) {
+		return "", api.ErrRange
+	}
+	changed := parts.Change(m.head.Data, m.head.Spare, m.pieces, at, text)
+	return packs.Write(m.head, changed), api.OK
+}
